@@ -163,7 +163,7 @@ func TestP206P207Any(t *testing.T) {
 	}
 }
 
-// P20.6 and P20.7: all paths of up to five parts over the grove.
+// P20.6 and P20.7: all paths of up to four parts over the grove.
 func TestP206P207AllShort(t *testing.T) {
 	root, _ := grove(t)
 	parts := []string{"a", "f", "b", "l", "up", "abs", "m", "mb", "z", "w", "far", "al", "r", "..", "no", "\x00"}
