@@ -8,6 +8,7 @@ import (
 	"testing"
 
 	"mantle/api"
+	"mantle/store"
 )
 
 // What is no file: nothing, a directory, the root, a link, what would lie below a file or a link; ahead of all that is wrong with the numbers.
@@ -88,7 +89,9 @@ func TestP223Errors(t *testing.T) {
 		{write("f", api.MaxText, []byte("x")), api.ErrLong},
 		{write("f", api.MaxText-1, []byte("xy")), api.ErrLong},
 		{write("f", api.MaxText, nil), api.OK},
-		{write("f", api.MaxText+1, nil), api.ErrLong},
+		{write("f", api.MaxText+1, nil), api.OK},
+		{write("f", api.MaxText+1, []byte("x")), api.ErrLong},
+		{write("f", api.MaxText+1, letters(api.MaxText+1)), api.ErrLong},
 		{write("f", math.MaxInt64, []byte("xy")), api.ErrLong},
 		{write("f", 0, letters(api.MaxText)), api.ErrSpace},
 		{write("f", api.MaxText-1, []byte("x")), api.ErrSpace},
@@ -107,6 +110,33 @@ func TestP223Errors(t *testing.T) {
 		wantRead(t, x.store, "f", []byte("abc"))
 	}
 	x.wantTree(t)
+}
+
+// A write of no bytes, wherever it stands: it is refused only of what is no file and at a place below 0; else nothing is changed, and no room is wanted.
+func TestP223NoBytes(t *testing.T) {
+	x := mixed(t, 64)
+	x.do(t, file("empty"))
+	x.fill(t, "full")
+	x.wantStays(t)
+	writes := x.spy.writes
+	for _, at := range []int64{0, 1, 99, 65535, 65536, 65537, 70000, 1 << 17, 1 << 32, 1<<32 + 1, api.MaxSize, api.MaxSize + 1, math.MaxInt64 - 1, math.MaxInt64} {
+		for _, b := range [][]byte{nil, {}, letters(9)[:0]} {
+			for _, p := range []string{"empty", "f", "full", "d/e/f"} {
+				x.wantE(t, api.OK, write(p, at, b))
+				x.wantE(t, api.ErrArg, write(p, -at-1, b))
+			}
+			x.wantE(t, api.ErrNone, write("no", at, b))
+			x.wantE(t, api.ErrDir, write("f/../d", at, b))
+			x.wantE(t, api.ErrDir, write("l", at, b))
+			x.wantE(t, api.ErrName, write("f/\x00", at, b))
+			wantE(t, (*store.Store)(nil).Write("f", at, b), api.ErrNil)
+		}
+		x.wantTree(t)
+	}
+	x.wantStays(t)
+	if x.spy.writes != writes {
+		t.Error("a Sync behind writes of no bytes writes something")
+	}
 }
 
 // A file as long as the promise of room lets it be, on the greatest disk, written at its end, over its border, and cut.
@@ -133,7 +163,7 @@ func TestP223Noughts(t *testing.T) {
 	wantRead(t, x.store, "f", []byte("\x00\x00\x00a\x00\x00"))
 	x.do(t, cut("f", 0), write("f", 2, []byte{0}))
 	wantRead(t, x.store, "f", make([]byte, 3))
-	x.do(t, write("f", 99, nil))
+	x.do(t, write("f", 99, nil), write("f", 99999, nil))
 	wantRead(t, x.store, "f", make([]byte, 3))
 	wantRead(t, x.wantStays(t), "f", make([]byte, 3))
 }

@@ -121,11 +121,14 @@ func (m *paper) write(p string, at int64, b []byte) api.Errno {
 	if at < 0 {
 		return api.ErrArg
 	}
-	if len(b) > 65536 || at > 65536 || at+int64(len(b)) > 65536 {
+	if len(b) > 65536 {
 		return api.ErrLong
 	}
 	if len(b) == 0 {
 		return api.OK
+	}
+	if at > 65536 || at+int64(len(b)) > 65536 {
+		return api.ErrLong
 	}
 	data := bytes.Clone(m.items[p].Data)
 	for i, x := range b {

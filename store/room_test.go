@@ -90,7 +90,7 @@ func TestP225Refused(t *testing.T) {
 			x.wantE(t, api.ErrSpace, a)
 			x.wantTree(t)
 		}
-		x.do(t, move("full", "lluf"), move("d/l", "l"), move("lluf", "d/full"), write("d/full", 0, []byte("abc")), cut("d/full", int64(len(told.text))), write("d/f", 9, nil), move("d", "d"))
+		x.do(t, move("full", "lluf"), move("d/l", "l"), move("lluf", "d/full"), write("d/full", 0, []byte("abc")), cut("d/full", int64(len(told.text))), write("d/f", 9, nil), write("d/f", api.MaxText+9, nil), move("d", "d"))
 		x.wantTree(t)
 		x.wantStays(t)
 		x.do(t, drop("l"), file("n"), drop("n"), cut("d/full", 0))

@@ -261,6 +261,8 @@ func (c *chance) act() act {
 		a.to = string(c.text(c.below(5000)))
 	case 5:
 		a.to = a.p + "/" + a.to
+	case 6:
+		a.at, a.b = int64(c.below(1<<18)), nil
 	}
 	return a
 }
